@@ -560,26 +560,32 @@ func TestPromise12WhatSurelyLosesIsWorseThanNothing(t *testing.T) {
 	}
 }
 
-// checkNewMemory tests that a function reads a row without writing to it or to the room behind it, and that its results share memory neither with that room nor with each other.
+// checkNewMemory tests what checkNewItems does, for results of numbers.
 func checkNewMemory(t *testing.T, room []int, worlds int, call func(row []int) []int) {
 	t.Helper()
+	checkNewItems(t, room, worlds, 777, call)
+}
+
+// checkNewItems tests that a function reads a row without writing to it or to the room behind it, and that its results share memory neither with that room nor with each other. The results are written over with another item.
+func checkNewItems[T comparable](t *testing.T, room []int, length int, other T, call func(row []int) []T) {
+	t.Helper()
 	before := slices.Clone(room)
-	first := call(room[:worlds])
-	second := call(room[:worlds])
+	first := call(room[:length])
+	second := call(room[:length])
 	want := slices.Clone(second)
 	if len(want) == 0 || !slices.Equal(first, want) {
 		t.Fatalf("results differ: %v %v", first, second)
 	}
 	for i := range first[:cap(first)] {
-		first[:cap(first)][i] = 777
+		first[:cap(first)][i] = other
 	}
 	if !slices.Equal(room, before) || !slices.Equal(second, want) {
 		t.Fatalf("memory is shared: %v %v", room, second)
 	}
 	for i := range second[:cap(second)] {
-		second[:cap(second)][i] = 777
+		second[:cap(second)][i] = other
 	}
-	if third := call(room[:worlds]); !slices.Equal(room, before) || !slices.Equal(third, want) {
+	if third := call(room[:length]); !slices.Equal(room, before) || !slices.Equal(third, want) {
 		t.Fatalf("a result was kept: %v %v", room, third)
 	}
 }
