@@ -567,7 +567,7 @@ func checkNewMemory(t *testing.T, room []int, worlds int, call func(row []int) [
 }
 
 // checkNewItems tests that a function reads a row without writing to it or to the room behind it, and that its results share memory neither with that room nor with each other. The results are written over with another item.
-func checkNewItems[T comparable](t *testing.T, room []int, length int, other T, call func(row []int) []T) {
+func checkNewItems[R comparable, T comparable](t *testing.T, room []R, length int, other T, call func(row []R) []T) {
 	t.Helper()
 	before := slices.Clone(room)
 	first := call(room[:length])
