@@ -57,6 +57,11 @@ func worldsOk(worlds int) bool {
 	return worlds >= 1 && worlds <= MaxWorlds
 }
 
+// isWorld reports whether a number is one of so many worlds, from 0 on.
+func isWorld(worlds int, world int) bool {
+	return world >= 0 && world < worlds
+}
+
 // allWorlds returns the event of all of so many worlds, which are in 1..MaxWorlds.
 func allWorlds(worlds int) int {
 	return 1<<worlds - 1
