@@ -26,10 +26,10 @@ func isGamble(g []int) bool {
 }
 
 // rowsOf returns all rows of a length whose items are some of these.
-func rowsOf(length int, items []int) [][]int {
-	rows := [][]int{{}}
+func rowsOf[T any](length int, items []T) [][]T {
+	rows := [][]T{{}}
 	for range length {
-		var longer [][]int
+		var longer [][]T
 		for _, row := range rows {
 			for _, item := range items {
 				longer = append(longer, append(slices.Clone(row), item))

@@ -117,17 +117,7 @@ func edgeQuotes(worlds int) []impl.Quote {
 
 // booksOf returns all books of so many quotes, each one of these.
 func booksOf(length int, quotes []impl.Quote) [][]impl.Quote {
-	books := [][]impl.Quote{{}}
-	for range length {
-		var longer [][]impl.Quote
-		for _, book := range books {
-			for _, q := range quotes {
-				longer = append(longer, append(slices.Clone(book), q))
-			}
-		}
-		books = longer
-	}
-	return books
+	return rowsOf(length, quotes)
 }
 
 // someBooks returns books of so many worlds and of all numbers of quotes: those of the quotes at the edges, and drawn ones.

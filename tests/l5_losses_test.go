@@ -37,10 +37,13 @@ func losesEverywhere(worlds int, book []impl.Quote, stakes []int) bool {
 
 // firstLosing tells what LosingStakes has to return for a book.
 func firstLosing(worlds int, book []impl.Quote) ([]int, bool) {
-	for _, stakes := range triedStakes[len(book)] {
-		if losesEverywhere(worlds, book, stakes) {
-			return stakes, true
-		}
+	return firstTried(len(book), func(stakes []int) bool { return losesEverywhere(worlds, book, stakes) })
+}
+
+// firstTried returns the first row of so many stakes that are tried for which a test holds.
+func firstTried(count int, holds func(stakes []int) bool) ([]int, bool) {
+	if at := slices.IndexFunc(triedStakes[count], holds); at >= 0 {
+		return triedStakes[count][at], true
 	}
 	return nil, false
 }

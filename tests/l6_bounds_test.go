@@ -10,24 +10,50 @@ import (
 	"loop.example/fairbooks/impl"
 )
 
-// boundCase has a book, and for each event of its worlds a set of bits: those of all numbers of grains that measures which fit have on it.
-type boundCase struct {
-	worlds int
-	book   []impl.Quote
-	seen   []uint64
-}
+// seenGrains has for each event a set of bits: those of all numbers of grains that some measures have on it.
+type seenGrains []uint64
 
-// boundsOf tells by a list of all measures which numbers of grains a book leaves for each event.
-func boundsOf(worlds int, book []impl.Quote) boundCase {
-	seen := make([]uint64, countOfEvents[worlds])
+// grainsSeen tells by a list of all measures of so many worlds which numbers of grains those for which a test holds have on each event.
+func grainsSeen(worlds int, holds func(m []int) bool) seenGrains {
+	seen := make(seenGrains, countOfEvents[worlds])
 	for _, m := range allMeasures[worlds] {
-		if fitsBook(m, book) {
+		if holds(m) {
 			for event := range seen {
 				seen[event] |= 1 << onEvent(m, event)
 			}
 		}
 	}
-	return boundCase{worlds, book, seen}
+	return seen
+}
+
+// fair tells whether there is some measure.
+func (seen seenGrains) fair() bool {
+	return seen[0] != 0
+}
+
+// least tells the least grains on an event, or -1.
+func (seen seenGrains) least(event int) int {
+	if !seen.fair() {
+		return -1
+	}
+	return bits.TrailingZeros64(seen[event])
+}
+
+// most tells the most grains on an event, or -1.
+func (seen seenGrains) most(event int) int {
+	return bits.Len64(seen[event]) - 1
+}
+
+// boundCase has a book, and which numbers of grains the measures that fit it have.
+type boundCase struct {
+	worlds int
+	book   []impl.Quote
+	seenGrains
+}
+
+// boundsOf returns the case of a book.
+func boundsOf(worlds int, book []impl.Quote) boundCase {
+	return boundCase{worlds, book, grainsSeen(worlds, func(m []int) bool { return fitsBook(m, book) })}
 }
 
 // boundBooks returns the tested books of so many worlds; of four worlds, whose walks take long, all of at most one quote, and each fourth one of the others.
@@ -60,47 +86,38 @@ var boundCases = sync.OnceValue(func() []boundCase {
 	return list
 })
 
-// fair tells whether some measure fits the book.
-func (c boundCase) fair() bool {
-	return c.seen[0] != 0
-}
-
-// least tells what LeastOn has to return.
-func (c boundCase) least(event int) int {
-	if !c.fair() {
-		return -1
-	}
-	return bits.TrailingZeros64(c.seen[event])
-}
-
-// most tells what MostOn has to return.
-func (c boundCase) most(event int) int {
-	return bits.Len64(c.seen[event]) - 1
-}
-
 // pinned tells what PinnedOk has to report.
 func (c boundCase) pinned(event int) bool {
-	return bits.OnesCount64(c.seen[event]) == 1
+	return bits.OnesCount64(c.seenGrains[event]) == 1
 }
 
 // further tells what FurtherOk has to report of a valid quote.
 func (c boundCase) further(q impl.Quote) bool {
-	return c.seen[q.Event]>>(6*q.Price)&1 == 1
+	return c.seenGrains[q.Event]>>(6*q.Price)&1 == 1
 }
 
-// events returns the events that are tested for the book: all of at most three worlds, and of four those that are quoted, their others, never and always, and two drawn ones.
+// events returns the events that are tested for the book.
 func (c boundCase) events(draw func(below int) int) []int {
-	count := countOfEvents[c.worlds]
+	var quoted []int
+	for _, q := range c.book {
+		quoted = append(quoted, q.Event)
+	}
+	return someEvents(draw, c.worlds, quoted)
+}
+
+// someEvents returns all events of at most three worlds, and of four some given ones, their others, never and always, and two drawn ones.
+func someEvents(draw func(below int) int, worlds int, given []int) []int {
+	count := countOfEvents[worlds]
 	var list []int
-	if c.worlds < 4 {
+	if worlds < 4 {
 		for event := range count {
 			list = append(list, event)
 		}
 		return list
 	}
 	list = append(list, 0, count-1, draw(count), draw(count))
-	for _, q := range c.book {
-		list = append(list, q.Event, count-1-q.Event)
+	for _, event := range given {
+		list = append(list, event, count-1-event)
 	}
 	slices.Sort(list)
 	return slices.Compact(list)
